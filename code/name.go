@@ -1,0 +1,55 @@
+package code
+
+import (
+	"sync"
+)
+
+// letters are those of a name, in the order of their digits, from 1 on.
+//
+// A name's letters are the digits of its number, which goes by 37s. No digit is 0: so no two names have one number, the empty one has 0, and each number is a name's. That of 12 letters, as many as a name has, is below 2^63.
+const letters = "abcdefghijklmnopqrstuvwxyz0123456789-"
+
+// base is how many letters there are.
+const base = uint64(len(letters))
+
+// mostLetters is how many letters the greatest word is as a name's number.
+const mostLetters = 13
+
+// The digits of the letters, by their bytes (a name has none above 127), and the once in which they are found.
+var (
+	once   sync.Once
+	digits = [128]byte{}
+)
+
+// findDigits fills the table of digits.
+func findDigits() {
+	for k := range len(letters) {
+		digits[letters[k]] = byte(k + 1)
+	}
+}
+
+// digit is that of a name's letter c.
+func digit(c byte) uint64 {
+	once.Do(findDigits)
+	return uint64(digits[c%128])
+}
+
+// putName is b with the name s behind it, which may be empty.
+func putName(b []byte, s string) []byte {
+	x := uint64(0)
+	for k := range len(s) {
+		x = x*base + digit(s[k])
+	}
+	return putWord(b, x)
+}
+
+// getName is the next name. It may be one of 13 letters, which no object has.
+func getName(r *reader) string {
+	var name [mostLetters]byte
+	at := mostLetters
+	for x := getWord(r); x > 0; x = (x - 1) / base {
+		at--
+		name[at] = letters[(x-1)%base]
+	}
+	return string(name[at:])
+}

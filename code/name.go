@@ -15,7 +15,20 @@ const base = uint64(len(letters))
 // mostLetters is how many letters the greatest word is as a name's number.
 const mostLetters = 13
 
-// The digits of the letters, by their bytes (a name has none above 127), and the once in which they are found.
+// digit is that of a name's letter c; 0: no name has c. Every number of a name goes by it.
+func digit(c byte) uint64 {
+	switch {
+	case 'a' <= c && c <= 'z':
+		return uint64(c-'a') + 1
+	case '0' <= c && c <= '9':
+		return uint64(c-'0') + 27
+	case c == '-':
+		return base
+	}
+	return 0
+}
+
+// The same digits in a table, by the letters' bytes (a name has none above 127), and the once in which they are found. They are found in letters, not by digit, so that the one can be held against the other.
 var (
 	once   sync.Once
 	digits = [128]byte{}
@@ -28,10 +41,13 @@ func findDigits() {
 	}
 }
 
-// digit is that of a name's letter c.
-func digit(c byte) uint64 {
+// tabled is digit(c), as the table has it.
+func tabled(c byte) uint64 {
 	once.Do(findDigits)
-	return uint64(digits[c%128])
+	if int(c) >= len(digits) {
+		return 0
+	}
+	return uint64(digits[c])
 }
 
 // putName is b with the name s behind it, which may be empty.

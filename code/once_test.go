@@ -19,7 +19,7 @@ const (
 	answers = "CODE_ANSWERS"
 )
 
-// calls are those of each function, with whether it answers what it has to, given the bytes of pod, node and lease.
+// calls are those of each function, and of the table, with whether it answers what it has to, given the bytes of pod, node and lease.
 var calls = map[string]func(p, n, l []byte) bool{
 	"PutPod":   func(p, n, l []byte) bool { return bytes.Equal(code.PutPod(pod()), p) },
 	"GetPod":   func(p, n, l []byte) bool { x, ok := code.GetPod(p); return ok && obj.EqPod(x, pod()) },
@@ -31,6 +31,26 @@ var calls = map[string]func(p, n, l []byte) bool{
 	"Key": func(p, n, l []byte) bool {
 		return code.Key(code.KNode, "a-1") == "n/a-1" && code.Key(code.KPod, "A") == ""
 	},
+	"the table": func(p, n, l []byte) bool { return sameDigits(code.Tabled) },
+	"a digit":   func(p, n, l []byte) bool { return sameDigits(code.Digit) },
+	"both": func(p, n, l []byte) bool {
+		for c := range 256 {
+			if code.Digit(byte(c)) != code.Tabled(byte(c)) {
+				return false
+			}
+		}
+		return true
+	},
+}
+
+// sameDigits says whether digit tells each byte's place among the letters of a name, from 1 on, and 0 of a byte that is none.
+func sameDigits(digit func(byte) uint64) bool {
+	for c := range 256 {
+		if digit(byte(c)) != uint64(strings.IndexByte(nameLetters, byte(c))+1) {
+			return false
+		}
+	}
+	return true
 }
 
 // together says whether all calls answer what they have to, many at once, where those of that name begin.
@@ -61,11 +81,7 @@ func together(first string, p, n, l []byte) bool {
 func TestWhoAsksFirst(t *testing.T) {
 	if first := os.Getenv(firstOf); first != "" {
 		// Here nothing was asked yet.
-		var bs [][]byte
-		for _, text := range strings.Split(os.Getenv(answers), " ") {
-			b, _ := hex.DecodeString(text)
-			bs = append(bs, b)
-		}
+		bs := bytesOfAnswers()
 		if !calls[first](bs[0], bs[1], bs[2]) || !together("", bs[0], bs[1], bs[2]) {
 			t.Error("P5.1: another answer of the first call, or of a later one")
 		}
@@ -82,11 +98,7 @@ func TestWhoAsksFirst(t *testing.T) {
 
 func TestManyAskAtOnce(t *testing.T) {
 	if first := os.Getenv(firstOf); first != "" {
-		var bs [][]byte
-		for _, text := range strings.Split(os.Getenv(answers), " ") {
-			b, _ := hex.DecodeString(text)
-			bs = append(bs, b)
-		}
+		bs := bytesOfAnswers()
 		if !together(first, bs[0], bs[1], bs[2]) {
 			t.Error("P5.1: another answer of many at once")
 		}
@@ -96,6 +108,46 @@ func TestManyAskAtOnce(t *testing.T) {
 	for name := range calls {
 		askProgram(t, "TestManyAskAtOnce", name, p, n, l)
 	}
+}
+
+func TestTableIsMadeOnce(t *testing.T) {
+	if os.Getenv(firstOf) == "" {
+		askProgram(t, "TestTableIsMadeOnce", "Key", nil, nil, nil)
+		return
+	}
+	// Here nothing was asked yet.
+	if code.Made() {
+		t.Error("P5.1: the table is made ahead of the first who asks")
+	}
+	code.Key(code.KLease, "")
+	if !code.Made() || !sameDigits(code.Tabled) {
+		t.Error("P5.1: the table is not made when it is first asked for")
+	}
+}
+
+func TestNoAnswerHangsOnTheTable(t *testing.T) {
+	if os.Getenv(firstOf) == "" {
+		askProgram(t, "TestNoAnswerHangsOnTheTable", "SpoilTable", code.PutPod(pod()), code.PutNode(node()), code.PutLease(lease()))
+		return
+	}
+	bs := bytesOfAnswers()
+	code.SpoilTable()
+	for name, call := range calls {
+		table := name == "the table" || name == "both"
+		if call(bs[0], bs[1], bs[2]) == table {
+			t.Errorf("P5.1: with other digits in the table %s answers so: %v", name, table)
+		}
+	}
+}
+
+// bytesOfAnswers are those of pod, node and lease that the program was told.
+func bytesOfAnswers() [][]byte {
+	var bs [][]byte
+	for _, text := range strings.Split(os.Getenv(answers), " ") {
+		b, _ := hex.DecodeString(text)
+		bs = append(bs, b)
+	}
+	return bs
 }
 
 // askProgram runs that test alone in a program of its own, in which nothing was asked yet.

@@ -1,0 +1,18 @@
+package code
+
+// Digit is a letter's digit by the function.
+func Digit(c byte) uint64 { return digit(c) }
+
+// Tabled is a letter's digit by the table, which is made by then.
+func Tabled(c byte) uint64 { return tabled(c) }
+
+// Made says whether the table was made.
+func Made() bool { return digits[letters[0]] != 0 }
+
+// SpoilTable has wrong digits in the table from now on.
+func SpoilTable() {
+	once.Do(func() {})
+	for c := range digits {
+		digits[c] = byte(c) ^ 5
+	}
+}

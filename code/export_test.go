@@ -1,10 +1,7 @@
 package code
 
-// Digit is a letter's digit by the function.
-func Digit(c byte) uint64 { return digit(c) }
-
-// Tabled is a letter's digit by the table, which is made by then.
-func Tabled(c byte) uint64 { return tabled(c) }
+// Worked is a letter's digit by the function.
+func Worked(c byte) uint64 { return digit(c) }
 
 // Made says whether the table was made.
 func Made() bool { return digits[letters[0]] != 0 }

@@ -28,7 +28,7 @@ func digit(c byte) uint64 {
 	return 0
 }
 
-// The same digits in a table, by the letters' bytes (a name has none above 127), and the once in which they are found. They are found in letters, not by digit, so that the one can be held against the other.
+// The same digits in a table, by the letters' bytes (a name has none above 127), and the once in which they are found. They are found in letters, not by digit, so that the one can be held against the other. Only Digit goes by them: what is written and read is to hang on nothing that is made on the way.
 var (
 	once   sync.Once
 	digits = [128]byte{}
@@ -41,8 +41,8 @@ func findDigits() {
 	}
 }
 
-// tabled is digit(c), as the table has it.
-func tabled(c byte) uint64 {
+// Digit is the digit of a name's letter c, from 1 on, as the table has it, which is made when it is first asked for; 0: no name has c.
+func Digit(c byte) uint64 {
 	once.Do(findDigits)
 	if int(c) >= len(digits) {
 		return 0

@@ -31,16 +31,21 @@ var calls = map[string]func(p, n, l []byte) bool{
 	"Key": func(p, n, l []byte) bool {
 		return code.Key(code.KNode, "a-1") == "n/a-1" && code.Key(code.KPod, "A") == ""
 	},
-	"the table": func(p, n, l []byte) bool { return sameDigits(code.Tabled) },
-	"a digit":   func(p, n, l []byte) bool { return sameDigits(code.Digit) },
+	"the table": func(p, n, l []byte) bool { return sameDigits(code.Digit) },
+	"a digit":   func(p, n, l []byte) bool { return sameDigits(code.Worked) },
 	"both": func(p, n, l []byte) bool {
 		for c := range 256 {
-			if code.Digit(byte(c)) != code.Tabled(byte(c)) {
+			if code.Worked(byte(c)) != code.Digit(byte(c)) {
 				return false
 			}
 		}
 		return true
 	},
+}
+
+// asksTable says whether the call of that name asks the table.
+func asksTable(name string) bool {
+	return name == "the table" || name == "both"
 }
 
 // sameDigits says whether digit tells each byte's place among the letters of a name, from 1 on, and 0 of a byte that is none.
@@ -112,16 +117,27 @@ func TestManyAskAtOnce(t *testing.T) {
 
 func TestTableIsMadeOnce(t *testing.T) {
 	if os.Getenv(firstOf) == "" {
-		askProgram(t, "TestTableIsMadeOnce", "Key", nil, nil, nil)
+		askProgram(t, "TestTableIsMadeOnce", "Digit", code.PutPod(pod()), code.PutNode(node()), code.PutLease(lease()))
 		return
 	}
 	// Here nothing was asked yet.
-	if code.Made() {
-		t.Error("P5.1: the table is made ahead of the first who asks")
+	bs := bytesOfAnswers()
+	for name, call := range calls {
+		if !asksTable(name) && (!call(bs[0], bs[1], bs[2]) || code.Made()) {
+			t.Errorf("P5.1: %s makes the table, or answers another thing without it", name)
+		}
 	}
-	code.Key(code.KLease, "")
-	if !code.Made() || !sameDigits(code.Tabled) {
+	code.Worked('a')
+	if code.Made() {
+		t.Error("P5.1: the table is made ahead of the first who asks for it")
+	}
+	code.Digit('\xff')
+	if !code.Made() || !sameDigits(code.Digit) {
 		t.Error("P5.1: the table is not made when it is first asked for")
+	}
+	code.SpoilTable()
+	if sameDigits(code.Digit) {
+		t.Error("P5.1: the table is made another time")
 	}
 }
 
@@ -133,9 +149,8 @@ func TestNoAnswerHangsOnTheTable(t *testing.T) {
 	bs := bytesOfAnswers()
 	code.SpoilTable()
 	for name, call := range calls {
-		table := name == "the table" || name == "both"
-		if call(bs[0], bs[1], bs[2]) == table {
-			t.Errorf("P5.1: with other digits in the table %s answers so: %v", name, table)
+		if call(bs[0], bs[1], bs[2]) == asksTable(name) {
+			t.Errorf("P5.1: with other digits in the table %s answers so: %v", name, asksTable(name))
 		}
 	}
 }

@@ -3,6 +3,8 @@ package code_test
 import (
 	"crypto/sha256"
 	"encoding/hex"
+	"fmt"
+	"math"
 	"strings"
 	"testing"
 
@@ -77,5 +79,31 @@ func TestNumbersOfNames(t *testing.T) {
 				}
 			}
 		}
+	}
+}
+
+// namesAndOthers are names, and what is none.
+func namesAndOthers() []string {
+	names := []string{"", " ", "A B", "l", "p/a", "n/a", "p/", "n/", "é", "\xff", "\x00", strings.Repeat("a", 1<<16)}
+	for n := range 20 {
+		names = append(names, strings.Repeat("z", n), nameLetters[n:], nameLetters[:n], nameLetters[n:min(n+12, len(nameLetters))], nameLetters[n:min(n+13, len(nameLetters))])
+	}
+	for c := range 256 {
+		b := string([]byte{byte(c)})
+		names = append(names, b, "a"+b, b+"a", "a"+b+"a", "abcdefghijk"+b, "abcdefghijkl"+b, b+"-123456789")
+	}
+	return names
+}
+
+// The keys under which they are in a store stay what they are, too.
+func TestKeysStayTheSame(t *testing.T) {
+	sum := sha256.New()
+	for _, kind := range []int{code.KPod, code.KNode, code.KLease, code.KNone, 4, -1, 1 << 32, math.MinInt, math.MaxInt} {
+		for _, name := range namesAndOthers() {
+			fmt.Fprintf(sum, "%d %q %q;", kind, name, code.Key(kind, name))
+		}
+	}
+	if got := hex.EncodeToString(sum.Sum(nil)); got != "c0517f0dd63976ba22f55d5c8b4da12a67e8232530bb85d123dc0ce59a6f3bdc" {
+		t.Errorf("P5.1: the keys have the sum %s", got)
 	}
 }
